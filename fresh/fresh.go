@@ -19,3 +19,18 @@ func Disk(d api.Disk) api.Disk {
 	}
 	return d
 }
+
+// Router answers the same router, right or not, in new memory.
+func Router(r api.Router) api.Router {
+	r.Routes, r.Links = slices.Clone(r.Routes), slices.Clone(r.Links)
+	return r
+}
+
+// Net answers the same net, right or not, in new memory.
+func Net(n api.Net) api.Net {
+	n.Seats, n.Routers = slices.Clone(n.Seats), slices.Clone(n.Routers)
+	for i, r := range n.Routers {
+		n.Routers[i] = Router(r)
+	}
+	return n
+}

@@ -60,3 +60,71 @@ func TestRoomBehindListsIsNotShared(t *testing.T) {
 		t.Error("what is put behind a copy's lists is in the room of the other one's")
 	}
 }
+
+// nets are right ones and others, all of whose lists have room behind them.
+func nets() []api.Net {
+	routes := append(make([]api.Route, 0, 9), api.Route{Prefix: api.Prefix{Len: 8}}, api.Route{Action: api.Action{Iface: -3}})
+	links := append(make([]api.Link, 0, 9), api.Link{Iface: 3, Peer: 7}, api.Link{Peer: -1})
+	return []api.Net{
+		{},
+		{Seats: make([]api.Seat, 0, 4), Routers: make([]api.Router, 0, 4)},
+		{Seats: []api.Seat{{Router: 4, Seq: 3, Time: 7, Up: true}}},
+		{Routers: []api.Router{{Id: -4, Up: true, Routes: routes}, {Id: 5, Links: links}, {Routes: routes[:0], Links: links[:0]}}},
+		{Seats: []api.Seat{{Router: 4}, {}}, Routers: []api.Router{{Id: 4, Routes: routes, Links: links}, {Id: 4, Routes: routes[:1], Links: links[:1]}}},
+	}
+}
+
+func TestACopyOfANetIsTheSame(t *testing.T) {
+	for _, n := range nets() {
+		if m := fresh.Net(n); !reflect.DeepEqual(m, n) {
+			t.Errorf("%v is copied as %v", n, m)
+		}
+		for _, r := range n.Routers {
+			if q := fresh.Router(r); !reflect.DeepEqual(q, r) {
+				t.Errorf("%v is copied as %v", r, q)
+			}
+		}
+	}
+}
+
+func spoilRouter(r api.Router) {
+	for i := range r.Routes[:cap(r.Routes)] {
+		r.Routes[:cap(r.Routes)][i].Action.Kind = 77
+	}
+	for i := range r.Links[:cap(r.Links)] {
+		r.Links[:cap(r.Links)][i].Peer = 77
+	}
+}
+
+func TestACopyOfANetSharesNothing(t *testing.T) {
+	for i, n := range nets() {
+		m := fresh.Net(n)
+		for _, r := range m.Routers {
+			spoilRouter(r)
+		}
+		for _, r := range n.Routers {
+			spoilRouter(fresh.Router(r))
+		}
+		clear(m.Seats[:cap(m.Seats)])
+		clear(m.Routers[:cap(m.Routers)])
+		if !reflect.DeepEqual(n, nets()[i]) {
+			t.Errorf("net %d shares a list with its copy", i)
+		}
+		for _, r := range n.Routers { // the room behind its lists, too
+			for _, x := range r.Routes[len(r.Routes):cap(r.Routes)] {
+				if x.Action.Kind == 77 {
+					t.Errorf("net %d shares the room behind a list", i)
+				}
+			}
+		}
+		m = fresh.Net(n)
+		if len(m.Routers) == 0 {
+			continue
+		}
+		want := fresh.Net(m)
+		spoilRouter(m.Routers[0])
+		if !reflect.DeepEqual(m.Routers[1:], want.Routers[1:]) {
+			t.Errorf("net %d: its copy's routers share a list", i)
+		}
+	}
+}
