@@ -34,3 +34,9 @@ func Net(n api.Net) api.Net {
 	}
 	return n
 }
+
+// Past answers the same past, right or not, in new memory.
+func Past(p api.Past) api.Past {
+	p.Base, p.Events = Net(p.Base), slices.Clone(p.Events)
+	return p
+}

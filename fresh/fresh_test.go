@@ -128,3 +128,36 @@ func TestACopyOfANetSharesNothing(t *testing.T) {
 		}
 	}
 }
+
+// pasts are right ones and others, all of whose lists have room behind them.
+func pasts() []api.Past {
+	l := []api.Past{{}, {Horizon: -7, Events: make([]api.Event, 0, 4)}}
+	for _, n := range nets() {
+		events := append(make([]api.Event, 0, 9), api.Event{Kind: api.EventUp, Router: 4}, api.Event{Time: -3})
+		l = append(l, api.Past{Base: n, Horizon: 9, Events: events})
+	}
+	return l
+}
+
+func TestACopyOfAPastIsTheSameAndSharesNothing(t *testing.T) {
+	for i, p := range pasts() {
+		q := fresh.Past(p)
+		if !reflect.DeepEqual(q, p) {
+			t.Errorf("%v is copied as %v", p, q)
+		}
+		for _, r := range q.Base.Routers {
+			spoilRouter(r)
+		}
+		clear(q.Base.Seats[:cap(q.Base.Seats)])
+		clear(q.Base.Routers[:cap(q.Base.Routers)])
+		clear(q.Events[:cap(q.Events)])
+		if !reflect.DeepEqual(p, pasts()[i]) {
+			t.Errorf("past %d shares a list with its copy", i)
+		}
+		more := fresh.Past(p)
+		more.Events = append(more.Events, api.Event{Kind: 77})
+		if room := p.Events[:cap(p.Events)]; len(room) > len(p.Events) && room[len(p.Events)].Kind == 77 {
+			t.Errorf("past %d shares the room behind its events", i)
+		}
+	}
+}
