@@ -37,12 +37,19 @@ func (d *draft) may(k kind) bool {
 		return !d.begun
 	case ofSeat:
 		return d.based
-	case ofRoute, ofLink:
-		return d.based && len(d.Base.Routers) > 0
+	case ofRoute:
+		return d.seated() && len(d.last().Links) == 0 // a router's routes stand ahead of its links
+	case ofLink:
+		return d.seated()
 	case ofEvent, ofTime:
 		return true
 	}
 	return false
+}
+
+// seated tells whether what comes may be of a router.
+func (d *draft) seated() bool {
+	return d.based && len(d.Base.Routers) > 0
 }
 
 // read has come what follows a record's first byte.

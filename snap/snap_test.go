@@ -197,7 +197,7 @@ func plainBase(l []string) (api.Past, []string, bool) {
 			action, _ := someAction(rest)
 			r := api.Route{Prefix: prefix, Action: action}
 			p.Base.Routers[last].Routes = append(p.Base.Routers[last].Routes, r)
-			is = is && r.Prefix.Len <= 128 && l[0] == plainRoute(r)
+			is = is && r.Prefix.Len <= 128 && l[0] == plainRoute(r) && len(p.Base.Routers[last].Links) == 0
 		default:
 			n, _ := someNums(rest, 2)
 			x := api.Link{Iface: int(n[0]), Peer: int(n[1])}
@@ -620,7 +620,11 @@ func TestLoadByHand(t *testing.T) {
 		{"a route", []string{all7, two, near}, api.Past{Horizon: 7, Base: seated(3, 6, api.Router{Id: 2, Up: true, Routes: []api.Route{near4}})}},
 		{"routes", []string{all7, two, near, big, five}, api.Past{Horizon: 7, Base: seated(3, 6, api.Router{Id: 2, Up: true, Routes: []api.Route{near4, big6}}, api.Router{Id: 5})}},
 		{"links", []string{all7, two, by0, by1}, api.Past{Horizon: 7, Base: seated(3, 6, api.Router{Id: 2, Up: true, Links: []api.Link{l0, l1}})}},
-		{"links ahead of routes", []string{all7, two, by0, near, by1}, api.Past{Horizon: 7, Base: seated(3, 6, api.Router{Id: 2, Up: true, Routes: []api.Route{near4}, Links: []api.Link{l0, l1}})}},
+		{"links behind routes", []string{all7, two, near, by0, by1}, api.Past{Horizon: 7, Base: seated(3, 6, api.Router{Id: 2, Up: true, Routes: []api.Route{near4}, Links: []api.Link{l0, l1}})}},
+		{"routes behind another router's links", []string{all7, two, by0, nine, near, by1}, api.Past{Horizon: 7, Base: api.Net{
+			Seats:   []api.Seat{{Router: 2, Seq: 3, Time: 6, Up: true}, {Router: 9, Seq: 3, Time: 7, Up: true}},
+			Routers: []api.Router{{Id: 2, Up: true, Links: []api.Link{l0}}, {Id: 9, Up: true, Routes: []api.Route{near4}, Links: []api.Link{l1}}},
+		}}},
 	} {
 		if p, why := snap.Load(c.l); !same(p, c.want) || why != api.OK {
 			t.Errorf("%s: %v, error %d, not %v", c.say, p, why, c.want)
@@ -678,6 +682,10 @@ func TestLoadRefuses(t *testing.T) {
 		"a seat, and a byte":                        {all7, two + "\x00"},
 		"a route of one that is not up":             {all7, five, near},
 		"a link of one that is not up":              {all7, five, by0},
+		"a route behind a link":                     {all7, two, by0, near},
+		"a route amid links":                        {all7, two, by0, near, by1},
+		"routes around a link":                      {all7, two, near, by0, big},
+		"a later router's route behind its link":    {all7, two, near, by0, nine, by1, near},
 		"routes that do not rise":                   {all7, two, big, near},
 		"a prefix twice":                            {all7, two, near, "\x03\x04\x08\x0a\x03"},
 		"a route, cut":                              {all7, two, "\x03\x04\x08\x0a"},
